@@ -22,7 +22,18 @@ func pattern[T Word](x float64) T {
 	case wide[T]():
 		return T(math.Float64bits(x))
 	}
-	return T(math.Float32bits(float32(x)))
+	return T(narrowed(x))
+}
+
+// narrowed tells the nearest binary32 of a number. What the language makes of one that is too great is not said: none that is above the greatest binary32 is converted.
+func narrowed(x float64) uint32 {
+	const beyond = 0x1.ffffffp127 // the greatest and half a step: of two the infinity is the even one
+	size := math.Abs(x)
+	if size >= beyond {
+		sign := uint32(math.Float64bits(x)>>32) & api.Neg32
+		return sign | api.Inf32
+	}
+	return math.Float32bits(float32(math.Copysign(min(size, math.MaxFloat32), x)))
 }
 
 // Cmp compares numbers; false: one is NaN.

@@ -58,6 +58,36 @@ func TestNarrow(t *testing.T) {
 	}
 }
 
+// P3.5, P3.9, P3.10: from half a step beyond the greatest binary32 on it is an infinity; below that the greatest one.
+func TestTooGreat(t *testing.T) {
+	for b, want := range map[uint64]uint32{
+		0x47efffffe0000000: 0x7f7fffff, 0x47efffffe0000001: 0x7f7fffff, 0x47efffffefffffff: 0x7f7fffff, 0x47effffff0000000: 0x7f800000, 0x47effffff0000001: 0x7f800000, 0x47f0000000000000: 0x7f800000, 0x7fefffffffffffff: 0x7f800000, 0x7ff0000000000000: 0x7f800000,
+	} {
+		if n := float.Narrow(b); n != want {
+			t.Errorf("Narrow(%x): %x; want %x", b, n, want)
+		}
+		if n := float.Narrow(b | api.Neg64); n != want|api.Neg32 {
+			t.Errorf("Narrow(%x): %x; want %x", b|api.Neg64, n, want|api.Neg32)
+		}
+		if n := float.Un(api.UnThin, b); n != widenOf(want) {
+			t.Errorf("Un(UnThin, %x): %x; want %x", b, n, widenOf(want))
+		}
+		if n := float.Un(api.UnThin, b|api.Neg64); n != widenOf(want|api.Neg32) {
+			t.Errorf("Un(UnThin, %x): %x; want %x", b|api.Neg64, n, widenOf(want|api.Neg32))
+		}
+	}
+	great, inf, neg := uint32(0x7f7fffff), uint32(api.Inf32), uint32(api.Neg32)
+	for i, x := range [][2]uint32{
+		{float.Add(great, great), inf}, {float.Add(great|neg, great|neg), inf | neg}, {float.Sub(great, great|neg), inf}, {float.Sub(great|neg, great), inf | neg},
+		{float.Mul(great, great), inf}, {float.Mul(great|neg, great), inf | neg}, {float.Mul(great|neg, great|neg), inf}, {float.Div(great, 1), inf}, {float.Div(great, 1|neg), inf | neg}, {float.Div(great, 0x3f7fffff), inf}, {float.Div(great-1, 0x3f7fffff), great},
+		{float.Add(great, 0x72ffffff), great}, {float.Add(great, 0x73000000), inf}, {float.Add(great|neg, 0xf2ffffff), great | neg}, {float.Add(great|neg, 0xf3000000), inf | neg},
+	} {
+		if x[0] != x[1] {
+			t.Errorf("line %d: %x; want %x", i, x[0], x[1])
+		}
+	}
+}
+
 // widenOf is P3.5's Widen.
 func widenOf(f uint32) uint64 {
 	b, neg := uint64(f), narrow.neg(uint64(f))
