@@ -10,12 +10,13 @@ import (
 	"fathom/block"
 )
 
-// The chapter's example 1, written out by hand: one value is told by stride in nine groups, so plainly in eight.
+// The chapter's example 1, written out by hand: as a decimal 1.5 is 15 at 1: 00001 00000000 00011110.
 func TestExampleOfOnePoint(t *testing.T) {
 	b := encodes(t, api.KindWide, []api.Point{{T: 5, V: 0x3ff8000000000000}})
-	front := []byte{0xb5, 1, b[2], 0, 1, 0, 0, 0, 0, 0, 0, 0, 0, 0, 5, 0, 0, 0, 0, 0, 0, 0, 5, 0x3f, 0xf8, 0, 0, 0, 0, 0, 0, 0x3f, 0xf8, 0, 0, 0, 0, 0, 0, 0, 0, 0, 8}
-	if !bytes.Equal(b[:43], front) {
-		t.Errorf("%x; want %x", b[:43], front)
+	front := []byte{0xb5, 1, 6, 0, 1, 0, 0, 0, 0, 0, 0, 0, 0, 0, 5, 0, 0, 0, 0, 0, 0, 0, 5, 0x3f, 0xf8, 0, 0, 0, 0, 0, 0, 0x3f, 0xf8, 0, 0, 0, 0, 0, 0, 0, 0, 0, 8, 0, 0, 0, 3}
+	parts := []byte{0, 0, 0, 0, 0, 0, 0, 5, 0x08, 0x00, 0xf0}
+	if len(b) != 66 || !bytes.Equal(b[:47], front) || !bytes.Equal(b[51:62], parts) {
+		t.Errorf("%x; want %x and %x with their Sums", b, front, parts)
 	}
 	want := api.BlockHead{Kind: api.KindWide, Count: 1, First: 5, Last: 5, Least: 0x3ff8000000000000, Greatest: 0x3ff8000000000000, Bytes: len(b)}
 	if h, e := block.Head(b); h != want || e != api.OK {
