@@ -352,7 +352,7 @@ func TestMany(t *testing.T) {
 			slices.SortFunc(l[i].Points, func(a, b api.Point) int { return int(a.T - b.T) })
 		}
 		l = append(l, run(nil, span(0, n)), run(points(5, 1, n+1, 1)))
-		want := append(make([]api.Point, 0, n+1), l[0].Points...)[:0]
+		var want []api.Point
 		for at := range int64(n) {
 			want = append(want, api.Point{T: at, V: uint64(at)})
 		}
