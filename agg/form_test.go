@@ -135,12 +135,23 @@ func TestRefused(t *testing.T) {
 	refused(t, "no line", form(m.Bytes(), p.Bytes(), nil, reach(f(-3), f(2))))
 }
 
+// TestOne: the one point's value lies in the reach, be it the first or the last one.
+func TestOne(t *testing.T) {
+	one := func(ends []byte) []byte {
+		return form(moments(1, 0, 0), path(1, 0, at(3, 0), at(3, 0)), lineOf(t, at(3, 0)), ends)
+	}
+	is(t, "Bytes", string(stateOf(t, at(3, 0)).Bytes()), string(one(reach(0, 0))))
+	readable(t, one(reach(minus(), 0)))
+	refused(t, "below", one(reach(1, 1)))
+	refused(t, "above", one(reach(minus(), minus())))
+}
+
 // TestBetween: where the first and the last value are NaNs, the reach is that of what stands between.
 func TestBetween(t *testing.T) {
 	ends := []api.Point{{T: 1, V: api.NaN64}, {T: 9, V: api.NaN64 | 1}}
 	s := stateOf(t, ends[0], at(4, 0), ends[1])
 	with := func(ends2 []byte) []byte {
-		return form(moments(3, 2, 0), path(3, 2, ends[0], ends[1]), line1(t), ends2)
+		return form(moments(3, 2, 0), path(3, 2, ends[0], ends[1]), mixed(t), ends2)
 	}
 	is(t, "Bytes", string(s.Bytes()), string(with(reach(0, 0))))
 	readable(t, with(reach(f(-3), f(2))))
@@ -149,11 +160,16 @@ func TestBetween(t *testing.T) {
 	refused(t, "no reach", with([]byte{0}))
 }
 
-// line1 tells the form of a line of a nought at 4, and two that are not finite.
-func line1(t *testing.T) []byte {
+// mixed tells the form of a line of a nought at 4, and two that are not finite.
+func mixed(t *testing.T) []byte {
+	t.Helper()
+	return lineOf(t, api.Point{T: 1, V: api.NaN64}, at(4, 0), api.Point{T: 9, V: api.NaN64})
+}
+
+func lineOf(t *testing.T, l ...api.Point) []byte {
 	t.Helper()
 	n := &exact.Line{}
-	for _, p := range []api.Point{{T: 1, V: api.NaN64}, at(4, 0), {T: 9, V: api.NaN64}} {
+	for _, p := range l {
 		is(t, "Add", n.Add(p), api.OK)
 	}
 	return n.Bytes()
@@ -173,6 +189,10 @@ func TestNotFinite(t *testing.T) {
 	nans := form(moments(2, 2, 0), path(2, 2, x, api.Point{T: 5, V: api.NaN64 | 7}), line(2, 2), []byte{0})
 	readable(t, nans)
 	refused(t, "NaNs with a reach", form(moments(2, 2, 0), path(2, 2, x, api.Point{T: 5, V: api.NaN64 | 7}), line(2, 2), reach(0, 0)))
+	for _, ends := range [][]byte{{}, {0, 0}, {1}, {2}, {0xff}, make([]byte, 17)} {
+		refused(t, "NaNs, and bytes that are no reach", form(moments(2, 2, 0), path(2, 2, x, api.Point{T: 5, V: api.NaN64 | 7}), line(2, 2), ends))
+		refused(t, "no points, and bytes that are no reach", form(moments(0, 0, 0), path(0, 0, x, x), line(0, 0), ends))
+	}
 	refused(t, "noughts apart", form(moments(2, 0, 0), path(2, 0, at(1, 0), api.Point{T: 5, V: minus()}), line(2, 0), reach(0, 0)))
 }
 
